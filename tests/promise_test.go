@@ -227,6 +227,7 @@ func walked(lines []impl.FlowLine) impl.FlowFault {
 
 // Promises 2, 3 and 4, of workflows that are made up: what is wrong is just what going all ways finds.
 func TestMadeWorkflows(t *testing.T) {
+	t.Parallel()
 	r := rand.New(rand.NewSource(1))
 	seen := map[int]int{}
 	for range 20000 {
@@ -271,6 +272,7 @@ func holdTogether(t *testing.T, lines []impl.FlowLine) {
 
 // Promise 3 and 4: lines of any parts, some of them from right workflows.
 func TestLinesOfAnyParts(t *testing.T) {
+	t.Parallel()
 	r := rand.New(rand.NewSource(2))
 	words := []string{"", "a", "w", "undo", "for", "is", "add", "less", "1", "-1", "10000", " ", "a b", "abcdefghi", "\n", "\xff", "end"}
 	right := 0
@@ -308,6 +310,7 @@ func TestLinesOfAnyParts(t *testing.T) {
 
 // Promises 2 and 4: texts of any bytes, some of them from right workflows.
 func TestTextsOfAnyBytes(t *testing.T) {
+	t.Parallel()
 	r := rand.New(rand.NewSource(3))
 	bytes := []byte(" \n\n  azundoifelse019-\x00\xff\xc3\xa9\r\t")
 	for range 30000 {
@@ -344,6 +347,7 @@ func readAny(t *testing.T, text string) {
 
 // A text with a blank line ahead and each space twice is read as the same.
 func TestSpacesMeanNothing(t *testing.T) {
+	t.Parallel()
 	r := rand.New(rand.NewSource(4))
 	for range 5000 {
 		text := made(r)
@@ -360,6 +364,7 @@ func TestSpacesMeanNothing(t *testing.T) {
 
 // Nothing that is handed in is changed, also behind the ends of its lists.
 func TestNothingHandedInIsChanged(t *testing.T) {
+	t.Parallel()
 	r := rand.New(rand.NewSource(5))
 	for range 3000 {
 		lines := linesOf(t, made(r))
@@ -385,6 +390,7 @@ func TestNothingHandedInIsChanged(t *testing.T) {
 
 // An answer shares no memory with the argument, and no two of its lists share any.
 func TestAnswersAreNewMemory(t *testing.T) {
+	t.Parallel()
 	text := strings.Clone(rows("workflow w n m", "do a pay n m undo back", "do b pay n undo back", "get c go for n", "if a less b", "next a b", "end", "next"))
 	low := uintptr(unsafe.Pointer(unsafe.StringData(text)))
 	inText := func(s string) bool {

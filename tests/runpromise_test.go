@@ -38,6 +38,7 @@ func anyHap(r *rand.Rand, s impl.RunState) impl.RunHap {
 
 // Nothing that happens to a run spoils it, what is refused changes nothing, and all is as a second reckoning says.
 func TestRunsByASecondReckoning(t *testing.T) {
+	t.Parallel()
 	r := rand.New(rand.NewSource(11))
 	seen := map[string]int{}
 	for range 1500 {
@@ -105,6 +106,7 @@ func endOfPlay(s impl.RunState) string {
 
 // In whichever order the answers come, it ends the same.
 func TestOrderOfAnswers(t *testing.T) {
+	t.Parallel()
 	r := rand.New(rand.NewSource(12))
 	ends, waits := 0, 0
 	for range 1500 {
@@ -161,6 +163,7 @@ func allOrders(lines []impl.FlowLine, s impl.RunState, seen map[string]bool, end
 }
 
 func TestEveryOrderOfAnswers(t *testing.T) {
+	t.Parallel()
 	for _, text := range []string{
 		"workflow w|both|do a x|do b y a|and|sleep 1|do c z|end|do d v b c|return d",
 		"workflow w|both|do a x|both|do b x|and|do c y a|end|do d z b c|and|do e v|get f go for 3|end|do g u d e f|return g",
@@ -181,6 +184,7 @@ func TestEveryOrderOfAnswers(t *testing.T) {
 
 // No two asks of a run have one key, and what is undone has that of what was done, with a stroke.
 func TestKeysOfAsks(t *testing.T) {
+	t.Parallel()
 	r := rand.New(rand.NewSource(13))
 	undone := 0
 	for range 1500 {
@@ -219,6 +223,7 @@ func TestKeysOfAsks(t *testing.T) {
 
 // A run that is cancelled asks for all of Undo, the last first, each with what came of it, and is stopped behind that.
 func TestCancelledRunsUndo(t *testing.T) {
+	t.Parallel()
 	r := rand.New(rand.NewSource(14))
 	counts := map[int]int{}
 	for range 2500 {
@@ -257,6 +262,7 @@ func TestCancelledRunsUndo(t *testing.T) {
 
 // RunFold of what happened is RunFold of the first part, and then RunDo of the rest.
 func TestFoldInTwoParts(t *testing.T) {
+	t.Parallel()
 	r := rand.New(rand.NewSource(15))
 	for range 400 {
 		lines, args := livelyFlow(r)
@@ -310,6 +316,7 @@ func again(t *testing.T, lines []impl.FlowLine, args []int, list []impl.RunHap, 
 
 // A run that was live, done again with the patches that it had as marks, comes just as far.
 func TestPatchesDoneAgain(t *testing.T) {
+	t.Parallel()
 	r := rand.New(rand.NewSource(16))
 	patched, parted := 0, 0
 	for range 1500 {
@@ -349,6 +356,7 @@ func TestPatchesDoneAgain(t *testing.T) {
 
 // Nothing that is handed in is changed, also behind its end; answers share no memory with it, nor lists of one answer with each other.
 func TestRunsAreNewMemory(t *testing.T) {
+	t.Parallel()
 	r := rand.New(rand.NewSource(17))
 	for range 300 {
 		lines, args := livelyFlow(r)
@@ -400,6 +408,7 @@ func TestRunsAreNewMemory(t *testing.T) {
 
 // Asked twice, or at once from many sides, the same is answered.
 func TestRunsHangOnNothingElse(t *testing.T) {
+	t.Parallel()
 	r := rand.New(rand.NewSource(18))
 	for range 100 {
 		lines, args := livelyFlow(r)

@@ -237,6 +237,7 @@ func spoilAsk(r *rand.Rand, a *impl.RunAsk, num, id int, text string) {
 
 // Of any state it is said rightly whether it is ok; what happens to one that is leaves it ok, and spoils none that is not.
 func TestAnyStates(t *testing.T) {
+	t.Parallel()
 	r := rand.New(rand.NewSource(21))
 	oks := 0
 	for range 1500 {

@@ -202,6 +202,7 @@ func heldTo(t *testing.T, text string, steps []impl.FlowStep, place int, known n
 
 // Promises 1 and 8, of workflows that are made up, and that steps are what chapter 3 says.
 func TestStepsAreGoneThrough(t *testing.T) {
+	t.Parallel()
 	r := rand.New(rand.NewSource(11))
 	right, forks, dead := 0, 0, 0
 	for range 40000 {
@@ -291,6 +292,7 @@ func apart(t *testing.T, text string, steps []impl.FlowStep) int {
 
 // Promise 5, in the steps, and in the lines: of two parts that touch, none is made.
 func TestBranchesAreApart(t *testing.T) {
+	t.Parallel()
 	r := rand.New(rand.NewSource(12))
 	busy, refused := 0, 0
 	for range 40000 {
@@ -341,6 +343,7 @@ func TestBranchesAreApart(t *testing.T) {
 
 // Promises 6 and 7, of lines of any parts: steps are made just if nothing is wrong, each is shown on a line of its own.
 func TestStepsAreShown(t *testing.T) {
+	t.Parallel()
 	r := rand.New(rand.NewSource(13))
 	words := []string{"", "a", "undo", "1", "10000", "a b", "\n", "\xff"}
 	right, wrong := 0, 0
