@@ -75,18 +75,14 @@ func TestHistoriesOfPlays(t *testing.T) {
 }
 
 func TestWhatHasNoHistory(t *testing.T) {
-	right := flow(t, "workflow w a|do b x a|return b")
-	wrong := linesOf(t, "workflow w a\ndo b x a")
-	for _, c := range []struct {
-		lines []impl.FlowLine
-		args  []int
-	}{{right, nil}, {right, []int{1, 2}}, {right, []int{10000}}, {right, []int{-10000}}, {wrong, []int{1}}, {nil, nil}} {
+	for _, c := range cannotBegin(t) {
 		if list := impl.HistOf(c.lines, c.args, vars("go 1"), []int{1}, 10); len(list) != 0 {
 			t.Errorf("%v: %v", c.args, list)
 		}
 	}
+	lines := flow(t, "workflow w a|do b x a|return b")
 	for _, n := range []int{9999, -9999} {
-		if list := impl.HistOf(right, []int{n}, nil, nil, 0); rowsBy(list) != fmt.Sprintf("start %d|ask 1 0 x %d", n, n) {
+		if list := impl.HistOf(lines, []int{n}, nil, nil, 0); rowsBy(list) != fmt.Sprintf("start %d|ask 1 0 x %d", n, n) {
 			t.Errorf("%d: %v", n, list)
 		}
 	}

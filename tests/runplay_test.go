@@ -175,13 +175,21 @@ func TestPlayedUndo(t *testing.T) {
 	}
 }
 
-func TestWhatCannotBePlayed(t *testing.T) {
+// neverBegins is a workflow with args by which no run begins.
+type neverBegins struct {
+	lines []impl.FlowLine
+	args  []int
+}
+
+func cannotBegin(t *testing.T) []neverBegins {
+	t.Helper()
 	right := flow(t, "workflow w a|do b x a|return b")
 	wrong := linesOf(t, "workflow w a\ndo b x a")
-	for _, c := range []struct {
-		lines []impl.FlowLine
-		args  []int
-	}{{right, nil}, {right, []int{1, 2}}, {right, []int{10000}}, {right, []int{-10000}}, {wrong, []int{1}}, {nil, nil}} {
+	return []neverBegins{{right, nil}, {right, []int{1, 2}}, {right, []int{10000}}, {right, []int{-10000}}, {wrong, []int{1}}, {nil, nil}}
+}
+
+func TestWhatCannotBePlayed(t *testing.T) {
+	for _, c := range cannotBegin(t) {
 		s, list := impl.RunPlay(c.lines, c.args, vars("go 1"), nil, 10)
 		f, ok := impl.RunFold(c.lines, c.args, nil)
 		if shape(s) != shape(impl.RunState{}) || len(list) != 0 || shape(f) != shape(impl.RunState{}) || ok {
