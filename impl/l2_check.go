@@ -102,9 +102,10 @@ func (b *openBlocks) stand(place int, kind int) int {
 	if (place == 0) != (kind == FlowHead) {
 		return FlowUneven
 	}
-	switch kind {
-	case FlowIf, FlowPatch, FlowWhile, FlowBoth:
+	if opensBlock(kind) {
 		return b.begin(kind)
+	}
+	switch kind {
 	case FlowElse:
 		return b.turn(FlowIf, FlowPatch)
 	case FlowAnd:
@@ -209,6 +210,10 @@ func (k *knowing) part() (partEnd, error) {
 		comes = on
 	}
 	return partEnd{comes: comes, gives: k.known.since(ahead)}, nil
+}
+
+func opensBlock(kind int) bool {
+	return kind == FlowIf || kind == FlowPatch || kind == FlowWhile || kind == FlowBoth
 }
 
 func endsPart(kind int) bool {

@@ -359,15 +359,21 @@ func TestHistoriesHangOnNothingElse(t *testing.T) {
 			more, code := impl.HistMore(lines, list, cancel())
 			return fmt.Sprint(histShape(list), shape(s), f, histShape(more), code, impl.HistWrite(more))
 		}
-		want := ask()
-		got := make(chan string)
-		for range 6 {
-			go func() { got <- ask() }()
-		}
-		for range 6 {
-			if x := <-got; x != want {
-				t.Errorf("%s%s, and %s", impl.FlowPrint(lines), want, x)
-			}
+		askedAtOnce(t, impl.FlowPrint(lines), ask)
+	}
+}
+
+// askedAtOnce asks for the same from some sides at once.
+func askedAtOnce(t *testing.T, of string, ask func() string) {
+	t.Helper()
+	want := ask()
+	got := make(chan string)
+	for range 6 {
+		go func() { got <- ask() }()
+	}
+	for range 6 {
+		if x := <-got; x != want {
+			t.Errorf("%s%s, and %s", of, want, x)
 		}
 	}
 }
