@@ -42,7 +42,7 @@ func roomyCal(rules []impl.CalRule) []impl.CalRule {
 	for i := range rules {
 		rules[i].But = roomy(rules[i].But, 77)
 	}
-	return roomy(rules, rule(7, 7, 7, 7, 7))
+	return roomy(rules, rule(7, 7, 7, 7))
 }
 
 // wholeCal is rules with all that lies behind the ends of their lists.
