@@ -103,7 +103,7 @@ func TestServCalmWithTasksInHands(t *testing.T) {
 	w = serves(t, w, "begin a 0 2|begin b 1|begin c 0 4|begin d 1|lease 0 0|lease 0 1|lease 0 2|signal 3 1 go 2|take 0 3|take 0 2|take 0 3|take 0 0")
 	for _, script := range []string{"tick", "write 0|take 0 1|tick", "take 0 1|take 0 2", "fall 1", "tick*5|lease 1 0|lease 1 1|take 1 0|take 1 1|take 1 2|take 1 3", "write 0|write 0|write 0|write 0|cancel 0|cancel 2|take 0 0|take 0 0|take 0 2"} {
 		x := w
-		for _, e := range eventsBy(t, script) {
+		for _, e := range servDeeds.events(t, script) {
 			x, _ = impl.ServDo(x, e.event)
 		}
 		for _, rounds := range []int{1, 2, 3, 9} {

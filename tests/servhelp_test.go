@@ -120,84 +120,30 @@ func opened(t *testing.T, shards, workers int, flows ...string) impl.ServWorld {
 	return w
 }
 
-// does asks that an event has a code, and that all is as the second reckoning says.
+// does, doesAlike, serves and calms are of services.
 func does(t *testing.T, w impl.ServWorld, e impl.ServEvent, code int) impl.ServWorld {
 	t.Helper()
-	x, c := doesAlike(t, w, e)
-	if c != code {
-		t.Fatalf("%+v: code %d, asked for %d\n%s", e, c, code, servShape(w))
-	}
-	return x
+	return servDeeds.does(t, w, e, code)
 }
 
-// doesAlike asks that all is as the second reckoning says, that nothing that is handed in is changed, and that the world stays ok.
 func doesAlike(t *testing.T, w impl.ServWorld, e impl.ServEvent) (impl.ServWorld, int) {
 	t.Helper()
-	before := copyServ(w)
-	x, code := impl.ServDo(w, e)
-	want, byHand := doBy(w, e)
-	if code != byHand || !sameServ(x, want) {
-		t.Fatalf("%+v of\n%s: code %d, %d by hand\n%s, asked for\n%s", e, servShape(w), code, byHand, servShape(x), servShape(want))
-	}
-	if !sameServ(w, before) {
-		t.Fatalf("%+v changed what it got\n%s\n%s", e, servShape(before), servShape(w))
-	}
-	if code != 0 && code != 8 && !sameServ(x, before) {
-		t.Fatalf("%+v: code %d, and\n%s became\n%s", e, code, servShape(before), servShape(x))
-	}
-	if !impl.ServOk(x) {
-		t.Fatalf("%+v: not ok: %s", e, servShape(x))
-	}
-	return x, code
+	return servDeeds.doesAlike(t, w, e)
 }
 
-// codedEvent is an event, and the code that it must have.
-type codedEvent struct {
-	event impl.ServEvent
-	code  int
-}
-
-// eventsBy are events that are parted by strokes, each with its code behind `=`, if it has one, or its number of times behind `*`.
-func eventsBy(t *testing.T, script string) []codedEvent {
-	t.Helper()
-	var list []codedEvent
-	for _, text := range strings.Split(script, "|") {
-		text, times, _ := strings.Cut(text, "*")
-		text, codes, _ := strings.Cut(text, "=")
-		code, _ := strconv.Atoi(codes)
-		count, _ := strconv.Atoi(times)
-		for range max(1, count) {
-			list = append(list, codedEvent{evBy(t, text), code})
-		}
-	}
-	return list
-}
-
-// serves lets events happen, and asks that each has its code.
 func serves(t *testing.T, w impl.ServWorld, script string) impl.ServWorld {
 	t.Helper()
-	for _, e := range eventsBy(t, script) {
-		w = does(t, w, e.event, e.code)
-	}
-	return w
+	return servDeeds.doesAll(t, w, script)
 }
 
-// calms lets calm rounds pass, and asks that they are as the second reckoning says.
 func calms(t *testing.T, w impl.ServWorld, rounds int) impl.ServWorld {
 	t.Helper()
-	before := copyServ(w)
-	x := impl.ServCalm(w, rounds)
-	if !sameServ(w, before) {
-		t.Fatalf("%d rounds changed what they got\n%s\n%s", rounds, servShape(before), servShape(w))
-	}
-	want := w
-	for range min(rounds, 300) {
-		want = calmBy(want)
-	}
-	if !sameServ(x, want) {
-		t.Fatalf("%d rounds of\n%s\nare\n%s, asked for\n%s", rounds, servShape(w), servShape(x), servShape(want))
-	}
-	return x
+	return servDeeds.calms(t, w, rounds)
+}
+
+var servDeeds = deeds[impl.ServWorld, impl.ServEvent]{
+	do: impl.ServDo, by: doBy, calm: impl.ServCalm, calmBy: calmBy, most: 300,
+	event: evBy, ok: impl.ServOk, same: sameServ, copy: copyServ, shape: servShape,
 }
 
 // servBoards asks for a board whose lines are parted by strokes.

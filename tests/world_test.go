@@ -76,11 +76,14 @@ func fullWorld(t *testing.T) impl.ServWorld {
 	return w
 }
 
-type servChange struct {
+// changing is a thing that is changed of a world that is ok, and whether it stays so.
+type changing[W any] struct {
 	what string
 	ok   bool
-	make func(w *impl.ServWorld)
+	make func(w *W)
 }
+
+type servChange = changing[impl.ServWorld]
 
 func allChanged(t *testing.T, list []servChange) {
 	t.Helper()
@@ -105,10 +108,10 @@ func allChanged(t *testing.T, list []servChange) {
 }
 
 // each makes a change for each number, of which those in a range are ok.
-func each(what string, least, most int, set func(w *impl.ServWorld, n int)) []servChange {
-	var list []servChange
+func each[W any](what string, least, most int, set func(w *W, n int)) []changing[W] {
+	var list []changing[W]
 	for _, n := range []int{math.MinInt, least - 1, least, least + 1, most - 1, most, most + 1, math.MaxInt} {
-		list = append(list, servChange{fmt.Sprint(what, " ", n), least <= n && n <= most, func(w *impl.ServWorld) { set(w, n) }})
+		list = append(list, changing[W]{fmt.Sprint(what, " ", n), least <= n && n <= most, func(w *W) { set(w, n) }})
 	}
 	return list
 }
