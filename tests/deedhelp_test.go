@@ -15,6 +15,8 @@ type deeds[W, E any] struct {
 	most  int
 	event func(t *testing.T, text string) E
 	ok    func(w W) bool
+	// okBy is what is not ok by a second reckoning; "", if it is.
+	okBy  func(w W) string
 	same  func(a, b W) bool
 	copy  func(w W) W
 	shape func(w W) string
@@ -98,4 +100,35 @@ func (d deeds[W, E]) calms(t *testing.T, w W, rounds int) W {
 		t.Fatalf("%d rounds of\n%s\nare\n%s, asked for\n%s", rounds, d.shape(w), d.shape(x), d.shape(want))
 	}
 	return x
+}
+
+// changed asks of each change whether the world stays ok; then for what is told of it, and, if it does, of some events.
+func (d deeds[W, E]) changed(t *testing.T, w W, list []changing[W], told func(what string, x W, ok bool), events ...E) {
+	t.Helper()
+	for _, c := range list {
+		x := d.copy(w)
+		c.make(&x)
+		if d.ok(x) != c.ok || (d.okBy(x) == "") != c.ok {
+			t.Errorf("%s: ok is not %v, %q by hand", c.what, c.ok, d.okBy(x))
+		}
+		told(c.what, x, c.ok)
+		if c.ok {
+			for _, e := range events {
+				d.doesAlike(t, x, e)
+			}
+		}
+	}
+}
+
+// cameOften asks that all was met that random tests must have met, so often.
+func cameOften(t *testing.T, seen, least map[string]int) {
+	t.Helper()
+	for what, count := range least {
+		if seen[what] < count {
+			t.Errorf("%s: %d; %v", what, seen[what], seen)
+		}
+	}
+	if testing.Verbose() {
+		t.Log(seen)
+	}
 }

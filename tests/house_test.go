@@ -133,24 +133,14 @@ type houseChange = changing[impl.House]
 
 func allHouses(t *testing.T, list []houseChange) {
 	t.Helper()
-	h := fullHouse(t)
-	for _, c := range list {
-		x := copyHouse(h)
-		c.make(&x)
-		if impl.HouseOk(x) != c.ok || (houseOkBy(x) == "") != c.ok {
-			t.Errorf("%s: ok is not %v, %q by hand", c.what, c.ok, houseOkBy(x))
-		}
-		if !c.ok {
-			noHouse(t, c.what, x)
-			continue
-		}
-		if impl.HouseBoard(x) != houseBoardBy(x) || impl.HouseSafe(x) != houseSafeBy(x) {
-			t.Errorf("%s: safe %v, %q", c.what, impl.HouseSafe(x), impl.HouseBoard(x))
-		}
-		for _, e := range []impl.HouseEvent{evServe(evTick()), evServe(evBegin("man", 1)), evLook(), evKeep(0), evKeep(5)} {
-			happensAlike(t, x, e)
+	told := func(what string, x impl.House, ok bool) {
+		if !ok {
+			noHouse(t, what, x)
+		} else if impl.HouseBoard(x) != houseBoardBy(x) || impl.HouseSafe(x) != houseSafeBy(x) {
+			t.Errorf("%s: safe %v, %q", what, impl.HouseSafe(x), impl.HouseBoard(x))
 		}
 	}
+	houseDeeds.changed(t, fullHouse(t), list, told, evServe(evTick()), evServe(evBegin("man", 1)), evLook(), evKeep(0), evKeep(5))
 }
 
 // named makes a change for each name, of which the first are ok.

@@ -68,29 +68,11 @@ func houseEventBy(t *testing.T, text string) impl.HouseEvent {
 }
 
 // happens, happensAlike, lives and rests are of houses.
-func happens(t *testing.T, h impl.House, e impl.HouseEvent, code int) impl.House {
-	t.Helper()
-	return houseDeeds.does(t, h, e, code)
-}
-
-func happensAlike(t *testing.T, h impl.House, e impl.HouseEvent) (impl.House, int) {
-	t.Helper()
-	return houseDeeds.doesAlike(t, h, e)
-}
-
-func lives(t *testing.T, h impl.House, script string) impl.House {
-	t.Helper()
-	return houseDeeds.doesAll(t, h, script)
-}
-
-func rests(t *testing.T, h impl.House, rounds int) impl.House {
-	t.Helper()
-	return houseDeeds.calms(t, h, rounds)
-}
+var happens, happensAlike, lives, rests = houseDeeds.does, houseDeeds.doesAlike, houseDeeds.doesAll, houseDeeds.calms
 
 var houseDeeds = deeds[impl.House, impl.HouseEvent]{
 	do: impl.HouseDo, by: houseDoBy, calm: impl.HouseCalm, calmBy: houseCalmBy, most: 200,
-	event: houseEventBy, ok: impl.HouseOk, same: sameHouse, copy: copyHouse, shape: houseShape,
+	event: houseEventBy, ok: impl.HouseOk, okBy: houseOkBy, same: sameHouse, copy: copyHouse, shape: houseShape,
 }
 
 // houseBoards asks for a board whose lines are parted by strokes.

@@ -313,11 +313,7 @@ func TestEachTimesRunComesToWhatItMeans(t *testing.T) {
 			}
 		}
 	}
-	for what, least := range map[string]int{"fenced": 3, "lost": 40, "risen": 10, "stands 1": 500, "stands 2": 20} {
-		if seen[what] < least {
-			t.Errorf("%s came %d times: %v", what, seen[what], seen)
-		}
-	}
+	cameOften(t, seen, map[string]int{"fenced": 3, "lost": 40, "risen": 10, "stands 1": 500, "stands 2": 20})
 }
 
 // Nothing that is handed in is changed, also behind its end; an answer shares no memory with it, nor two lists of one answer.

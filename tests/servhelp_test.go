@@ -121,29 +121,11 @@ func opened(t *testing.T, shards, workers int, flows ...string) impl.ServWorld {
 }
 
 // does, doesAlike, serves and calms are of services.
-func does(t *testing.T, w impl.ServWorld, e impl.ServEvent, code int) impl.ServWorld {
-	t.Helper()
-	return servDeeds.does(t, w, e, code)
-}
-
-func doesAlike(t *testing.T, w impl.ServWorld, e impl.ServEvent) (impl.ServWorld, int) {
-	t.Helper()
-	return servDeeds.doesAlike(t, w, e)
-}
-
-func serves(t *testing.T, w impl.ServWorld, script string) impl.ServWorld {
-	t.Helper()
-	return servDeeds.doesAll(t, w, script)
-}
-
-func calms(t *testing.T, w impl.ServWorld, rounds int) impl.ServWorld {
-	t.Helper()
-	return servDeeds.calms(t, w, rounds)
-}
+var does, doesAlike, serves, calms = servDeeds.does, servDeeds.doesAlike, servDeeds.doesAll, servDeeds.calms
 
 var servDeeds = deeds[impl.ServWorld, impl.ServEvent]{
 	do: impl.ServDo, by: doBy, calm: impl.ServCalm, calmBy: calmBy, most: 300,
-	event: evBy, ok: impl.ServOk, same: sameServ, copy: copyServ, shape: servShape,
+	event: evBy, ok: impl.ServOk, okBy: worldOkBy, same: sameServ, copy: copyServ, shape: servShape,
 }
 
 // servBoards asks for a board whose lines are parted by strokes.

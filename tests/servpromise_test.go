@@ -297,11 +297,7 @@ func TestAsIfNobodyEverFell(t *testing.T) {
 			}
 		}
 	}
-	for what, least := range map[string]int{"fenced": 20, "stands 0": 30, "stands 1": 50, "stands 2": 5} {
-		if seen[what] < least {
-			t.Errorf("%s came %d times: %v", what, seen[what], seen)
-		}
-	}
+	cameOften(t, seen, map[string]int{"fenced": 20, "stands 0": 30, "stands 1": 50, "stands 2": 5})
 }
 
 // Nothing that is handed in is changed, also behind its end; an answer shares no memory with it, nor two lists of one answer.

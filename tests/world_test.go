@@ -87,24 +87,14 @@ type servChange = changing[impl.ServWorld]
 
 func allChanged(t *testing.T, list []servChange) {
 	t.Helper()
-	w := fullWorld(t)
-	for _, c := range list {
-		x := copyServ(w)
-		c.make(&x)
-		if impl.ServOk(x) != c.ok || (worldOkBy(x) == "") != c.ok || (impl.ServBoard(x) != "") != c.ok {
-			t.Errorf("%s: ok is not %v, %q by hand", c.what, c.ok, worldOkBy(x))
-		}
-		if !c.ok {
-			notOk(t, c.what, x)
-			continue
-		}
-		if impl.ServBoard(x) != boardBy(x) {
-			t.Errorf("%s: %q", c.what, impl.ServBoard(x))
-		}
-		for _, e := range []impl.ServEvent{evTick(), evTake(0, 2), evWrite(1), evTry(0, 1), evFire(0, 2), evBegin("bo", 1)} {
-			doesAlike(t, x, e)
+	told := func(what string, x impl.ServWorld, ok bool) {
+		if !ok {
+			notOk(t, what, x)
+		} else if impl.ServBoard(x) != boardBy(x) {
+			t.Errorf("%s: %q", what, impl.ServBoard(x))
 		}
 	}
+	servDeeds.changed(t, fullWorld(t), list, told, evTick(), evTake(0, 2), evWrite(1), evTry(0, 1), evFire(0, 2), evBegin("bo", 1))
 }
 
 // each makes a change for each number, of which those in a range are ok.
