@@ -84,6 +84,17 @@ func (d deeds[W, E]) doesAlike(t *testing.T, w W, e E) (W, int) {
 	return x, code
 }
 
+// goes lets an event happen, without a second reckoning, and asks that nothing that is handed in is changed, and that the world stays ok.
+func (d deeds[W, E]) goes(t *testing.T, w W, e E) (W, int) {
+	t.Helper()
+	before := d.copy(w)
+	x, code := d.do(w, e)
+	if !d.same(w, before) || !d.ok(x) {
+		t.Fatalf("%+v, code %d, of\n%s, which is now\n%s, came to\n%s", e, code, d.shape(before), d.shape(w), d.shape(x))
+	}
+	return x, code
+}
+
 // calms lets calm rounds pass, and asks that they are as the second reckoning says.
 func (d deeds[W, E]) calms(t *testing.T, w W, rounds int) W {
 	t.Helper()

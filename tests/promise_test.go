@@ -345,23 +345,6 @@ func readAny(t *testing.T, text string) {
 	taken(t, text)
 }
 
-// A text with a blank line ahead and each space twice is read as the same.
-func TestSpacesMeanNothing(t *testing.T) {
-	t.Parallel()
-	r := rand.New(rand.NewSource(4))
-	for range 5000 {
-		text := made(r)
-		lines, f := impl.FlowParse(text)
-		wide, g := impl.FlowParse("\n" + strings.ReplaceAll(text, " ", "  "))
-		if f.Line > 0 {
-			f.Line++
-		}
-		if f != g || !same(lines, wide) {
-			t.Fatalf("%s\n%+v, %+v", text, f, g)
-		}
-	}
-}
-
 // Nothing that is handed in is changed, also behind the ends of its lists.
 func TestNothingHandedInIsChanged(t *testing.T) {
 	t.Parallel()
